@@ -112,10 +112,14 @@ func PartOf(l []string, from int, to int) ([]string, bool) {
 	if !GoodLines(l) || from < 0 || from > to || to > len(l) {
 		return nil, false
 	}
-	// A slice of l would hand out the caller's own memory.
-	part := make([]string, to-from)
-	copy(part, l[from:to])
-	return part, true
+	return copyOf(l[from:to]), true
+}
+
+// An answer that were a slice of an argument would hand out the caller's own memory.
+func copyOf(l []string) []string {
+	own := make([]string, len(l))
+	copy(own, l)
+	return own
 }
 
 func PlainOf(line string) (string, bool) {
