@@ -110,21 +110,33 @@ func callAll(a, b []string) {
 	}
 }
 
-func TestNoArgumentIsChanged(t *testing.T) {
+// goodAndBad are lists of both kinds, most lines among them.
+func goodAndBad() [][]string {
 	lists := append(goodLists(2), manyLines(impl.MaxLines))
 	for _, l := range badLists() {
 		lists = append(lists, l)
 	}
-	for _, l := range lists {
-		for _, m := range lists {
-			a, roomA := within(l)
-			b, roomB := within(m)
-			beforeA, beforeB := slices.Clone(roomA), slices.Clone(roomB)
-			callAll(a, b)
-			callAll(b, a)
-			if !slices.Equal(roomA, beforeA) || !slices.Equal(roomB, beforeB) {
-				t.Fatalf("changed: %q, %q", l, m)
-			}
+	return lists
+}
+
+// checkUnchanged expects calls with both lists to leave them, and what is around them, as they were.
+func checkUnchanged(t *testing.T, l, m []string, call func(a, b []string)) {
+	t.Helper()
+	a, roomA := within(l)
+	b, roomB := within(m)
+	beforeA, beforeB := slices.Clone(roomA), slices.Clone(roomB)
+	call(a, b)
+	call(b, a)
+	call(a, a)
+	if !slices.Equal(roomA, beforeA) || !slices.Equal(roomB, beforeB) {
+		t.Fatalf("changed: %q, %q", l, m)
+	}
+}
+
+func TestNoArgumentIsChanged(t *testing.T) {
+	for _, l := range goodAndBad() {
+		for _, m := range goodAndBad() {
+			checkUnchanged(t, l, m, callAll)
 		}
 	}
 }

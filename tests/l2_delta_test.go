@@ -462,6 +462,11 @@ func TestJoinUpToMostHunks(t *testing.T) {
 
 // joinOf goes over lines of which each tells from where it came.
 func joinOf(l []string, a, b hunks) hunks {
+	return gapsOf(len(l), change(change(markedOf(l), a), b))
+}
+
+// gapsOf makes a hunk of all that is between two lines that follow one another and came from many lines.
+func gapsOf(many int, last []marked) hunks {
 	var all hunks
 	k := impl.Hunk{}
 	end := func(place int) {
@@ -471,14 +476,14 @@ func joinOf(l []string, a, b hunks) hunks {
 		}
 		k = impl.Hunk{At: place + 1}
 	}
-	for _, m := range change(change(markedOf(l), a), b) {
+	for _, m := range last {
 		if m.from < 0 {
 			k.New = append(k.New, m.line)
 		} else {
 			end(m.from)
 		}
 	}
-	end(len(l))
+	end(many)
 	return all
 }
 
