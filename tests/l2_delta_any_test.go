@@ -219,12 +219,16 @@ func unchanged(room, before hunks) bool {
 	return alike(deepCopy(room), before)
 }
 
+func spoilLines(l []string) {
+	for i := range l[:cap(l)] {
+		l[:cap(l)][i] = "mine"
+	}
+}
+
 // spoil writes into all memory that an answer hands out.
 func spoil(h hunks) {
 	for _, k := range h[:cap(h)] {
-		for i := range k.New[:cap(k.New)] {
-			k.New[:cap(k.New)][i] = "mine"
-		}
+		spoilLines(k.New)
 		_ = append(k.New, "mine")
 	}
 	for i := range h[:cap(h)] {
@@ -278,9 +282,7 @@ func callHunks(l []string, a, b hunks) {
 	impl.CountHunks(a)
 	impl.PlaceOf(a, len(l), 1)
 	made, _ := impl.Patch(l, a)
-	for i := range made[:cap(made)] {
-		made[:cap(made)][i] = "mine"
-	}
+	spoilLines(made)
 	for _, call := range hunkCalls() {
 		h, _ := call(l, a, b)
 		spoil(h)

@@ -256,9 +256,7 @@ func callSteps(l []string, h hunks, p steps) {
 	told, _, _ := impl.StepsHunks(l, p)
 	spoil(told)
 	lines, _, _ := impl.ApplySteps(l, p)
-	for i := range lines[:cap(lines)] {
-		lines[:cap(lines)][i] = "mine"
-	}
+	spoilLines(lines)
 }
 
 func TestNoStepsAreChanged(t *testing.T) {
