@@ -425,28 +425,32 @@ func TestAllShortTexts(t *testing.T) {
 	}
 }
 
+// tryNearly tries all texts that are a byte, or a line, apart from one, and its parts.
+func tryNearly(s string, bytes []string, try func(string)) {
+	for i := range len(s) + 1 {
+		for _, b := range bytes {
+			try(s[:i] + b + s[i:])
+			if i < len(s) {
+				try(s[:i] + b + s[i+1:])
+			}
+		}
+		try(s[:i])
+		try(s[i:])
+	}
+	lines := strings.SplitAfter(s, "\n")
+	for i := range lines {
+		try(strings.Join(slices.Delete(slices.Clone(lines), i, i+1), ""))
+		for j := range lines {
+			try(strings.Join(slices.Insert(slices.Clone(lines), j, lines[i]), ""))
+		}
+	}
+}
+
 // Each text that is nearly one of steps is read only where it is another one.
 func TestTextsThatAreNearlyRead(t *testing.T) {
 	bytes := []string{"", "0", "1", "2", ",", "a", "c", "d", "<", ">", "-", "\\", " ", "\n", "x", "\x00"}
 	for _, c := range append(normalCases(), openCases()...) {
-		s := c.text
-		for i := range len(s) + 1 {
-			for _, b := range bytes {
-				checkReadOrNot(t, s[:i]+b+s[i:])
-				if i < len(s) {
-					checkReadOrNot(t, s[:i]+b+s[i+1:])
-				}
-			}
-			checkReadOrNot(t, s[:i])
-			checkReadOrNot(t, s[i:])
-		}
-		lines := strings.SplitAfter(s, "\n")
-		for i := range lines {
-			checkReadOrNot(t, strings.Join(slices.Delete(slices.Clone(lines), i, i+1), ""))
-			for j := range lines {
-				checkReadOrNot(t, strings.Join(slices.Insert(slices.Clone(lines), j, lines[i]), ""))
-			}
-		}
+		tryNearly(c.text, bytes, func(s string) { checkReadOrNot(t, s) })
 	}
 }
 

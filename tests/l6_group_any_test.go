@@ -345,17 +345,26 @@ func callGroups(l []string, h hunks, g groups) {
 	}
 }
 
-func TestNoGroupsAreChanged(t *testing.T) {
-	lists := append(sharingCases(), nil, hunks{{At: 9, New: linesBy("x")}}, hunks{{New: linesBy(".x")}})
-	all := []groups{nil, {groupBy(0, 0, "=x-y")}, {groupBy(5, 5, "-a")}, {groupBy(0, 3, "+a")}, {groupBy(2, 2, "=c+.x")}}
-	for _, h := range sharingCases() {
-		all = append(all, groupsBy(fourLines(), h, 0), groupsBy(fourLines(), h, 1))
-	}
+// smallBadGroups are groups that are not good, alone and behind one that is, but not the ones with much.
+func smallBadGroups() []groups {
+	var all []groups
 	for _, g := range badGroups() {
 		if len(g.Rows) <= 100 {
 			all = append(all, groups{g}, groups{groupBy(0, 0, "-a"), g})
 		}
 	}
+	return all
+}
+
+// checkNoneChanged expects calls to leave lines, hunks and groups, good and bad, and what is around them, as they were.
+func checkNoneChanged(t *testing.T, call func(l []string, h hunks, g groups)) {
+	t.Helper()
+	lists := append(sharingCases(), nil, hunks{{At: 9, New: linesBy("x")}}, hunks{{New: linesBy(".x")}})
+	all := []groups{nil, {groupBy(0, 0, "=x-y")}, {groupBy(5, 5, "-a")}, {groupBy(0, 3, "+a")}, {groupBy(2, 2, "=c+.x")}, {groupBy(0, 0, "-a+x=b-c+y+z")}}
+	for _, h := range sharingCases() {
+		all = append(all, groupsBy(fourLines(), h, 0), groupsBy(fourLines(), h, 1))
+	}
+	all = append(all, smallBadGroups()...)
 	for _, text := range [][]string{nil, fourLines(), linesBy("abc.d"), {"a", "b\n"}} {
 		for _, h := range lists {
 			for _, g := range all {
@@ -363,13 +372,17 @@ func TestNoGroupsAreChanged(t *testing.T) {
 				inH, roomH := hunksWithin(h)
 				inG, roomG := groupsWithin(g)
 				beforeL, beforeH, beforeG := slices.Clone(roomL), deepCopy(roomH), copyOfGroups(roomG)
-				callGroups(l, inH, inG)
+				call(l, inH, inG)
 				if !slices.Equal(roomL, beforeL) || !unchanged(roomH, beforeH) || !alikeGroups(copyOfGroups(roomG), beforeG) {
 					t.Fatalf("changed: %q, %#v, %v", text, h, g)
 				}
 			}
 		}
 	}
+}
+
+func TestNoGroupsAreChanged(t *testing.T) {
+	checkNoneChanged(t, callGroups)
 }
 
 func TestListsOfGroupsShareNoMemory(t *testing.T) {
