@@ -227,37 +227,43 @@ func badWidths() []int {
 	return []int{-1, -2, impl.MaxWidth + 1, 1000, math.MaxInt, math.MaxInt - 1, math.MinInt, math.MaxInt/2 + 1, math.MinInt / 2}
 }
 
-func TestBadWidthsGetTheZeroAnswer(t *testing.T) {
-	for _, width := range badWidths() {
-		for _, h := range []hunks{nil, {{Gone: 1}}, {{Gone: 4}}, {{Gone: 1}, {At: 4, New: linesBy("x")}}} {
-			checkNoGroups(t, "bad width", fourLines(), h, width)
+// eachBadChange tries lines, hunks and widths of which some are not as said.
+func eachBadChange(try func(name string, l []string, h hunks, width int)) {
+	x := linesBy("x")
+	for _, width := range []int{0, 1, impl.MaxWidth} {
+		for name, l := range badLists() {
+			for _, h := range []hunks{nil, {{New: x}}, {{Gone: 1}}, {{Gone: len(l)}}, {{Gone: len(l), New: x}}} {
+				try(name, l, h, width)
+			}
 		}
-		checkNoGroups(t, "bad width, nothing", nil, nil, width)
+		for name, h := range badHunks() {
+			try(name, fourLines(), h, width)
+		}
+		try("one without an end comes first", fourLines(), hunks{{New: linesBy(".x")}}, width)
+		try("one comes behind one without an end", linesBy(".a"), hunks{{At: 1, New: x}}, width)
+		try("too many lines", manyLines(impl.MaxLines), hunks{{At: 1, New: x}}, width)
+	}
+	for _, width := range badWidths() {
+		for _, h := range []hunks{nil, {{Gone: 1}}, {{Gone: 4}}, {{Gone: 1}, {At: 4, New: x}}, {{At: 9, New: x}}} {
+			try("bad width", fourLines(), h, width)
+		}
+		try("bad width, nothing", nil, nil, width)
+	}
+}
+
+func TestBadChangesGetNoGroups(t *testing.T) {
+	eachBadChange(func(name string, l []string, h hunks, width int) {
+		checkNoGroups(t, name, l, h, width)
+	})
+	for _, width := range badWidths() {
 		for _, signs := range []string{"-a", "+a", "=a-b=c", "-a=b=c+d"} {
 			checkNoParts(t, "bad width", groupBy(3, 3, signs), width)
 		}
 	}
-}
-
-func TestBadLinesGetNoGroups(t *testing.T) {
-	x := linesBy("x")
 	for name, l := range badLists() {
-		for _, width := range []int{0, 1, impl.MaxWidth} {
-			for _, h := range []hunks{nil, {{New: x}}, {{Gone: 1}}, {{Gone: len(l)}}, {{Gone: len(l), New: x}}} {
-				checkNoGroups(t, name, l, h, width)
-			}
-		}
 		for _, g := range []groups{nil, {groupBy(0, 0, "-a")}, {groupBy(0, 0, "+a")}, {groupBy(5, 9, "+a")}, {groupBy(999, 9, "+a")}} {
 			checkNoRuns(t, name, l, g)
 		}
-	}
-	for _, width := range []int{0, 1, impl.MaxWidth} {
-		for name, h := range badHunks() {
-			checkNoGroups(t, name, fourLines(), h, width)
-		}
-		checkNoGroups(t, "one without an end comes first", fourLines(), hunks{{New: linesBy(".x")}}, width)
-		checkNoGroups(t, "one comes behind one without an end", linesBy(".a"), hunks{{At: 1, New: x}}, width)
-		checkNoGroups(t, "too many lines", manyLines(impl.MaxLines), hunks{{At: 1, New: x}}, width)
 	}
 }
 

@@ -48,31 +48,14 @@ func TestBadGroupsGetNoText(t *testing.T) {
 	}
 }
 
-func TestBadLinesGetNoText(t *testing.T) {
-	x := linesBy("x")
+func TestBadChangesGetNoText(t *testing.T) {
+	eachBadChange(func(name string, l []string, h hunks, width int) {
+		checkNoUnified(t, name, l, h, width)
+	})
 	for name, l := range badLists() {
 		for _, g := range []groups{nil, {groupBy(0, 0, "-a")}, {groupBy(0, 0, "+a")}, {groupBy(0, 0, "-.a")}, {groupBy(5, 9, "+a")}, {groupBy(999, 9, "+a")}} {
 			checkNotDone(t, name, l, g)
 		}
-		for _, width := range []int{0, 1, impl.MaxWidth} {
-			for _, h := range []hunks{nil, {{New: x}}, {{Gone: 1}}, {{Gone: len(l)}}, {{Gone: len(l), New: x}}} {
-				checkNoUnified(t, name, l, h, width)
-			}
-		}
-	}
-	for _, width := range []int{0, 1, impl.MaxWidth} {
-		for name, h := range badHunks() {
-			checkNoUnified(t, name, fourLines(), h, width)
-		}
-		checkNoUnified(t, "one without an end comes first", fourLines(), hunks{{New: linesBy(".x")}}, width)
-		checkNoUnified(t, "one comes behind one without an end", linesBy(".a"), hunks{{At: 1, New: x}}, width)
-		checkNoUnified(t, "too many lines", manyLines(impl.MaxLines), hunks{{At: 1, New: x}}, width)
-	}
-	for _, width := range badWidths() {
-		for _, h := range []hunks{nil, {{Gone: 1}}, {{Gone: 4}}, {{Gone: 1}, {At: 4, New: x}}, {{At: 9, New: x}}} {
-			checkNoUnified(t, "bad width", fourLines(), h, width)
-		}
-		checkNoUnified(t, "bad width, nothing", nil, nil, width)
 	}
 }
 

@@ -109,38 +109,61 @@ func readBySplit(text string) (groups, bool) {
 	return g, true
 }
 
+// reading is how groups are read from a text, and what a model reads.
+type reading struct {
+	read  func(text string) (groups, int, bool)
+	model func(text string) (groups, bool)
+}
+
+var allInOne = reading{impl.ReadUnified, readBySplit}
+
+func (r reading) checkNone(t *testing.T, name, text string) {
+	t.Helper()
+	if g, code, ok := r.read(text); len(g) != 0 || code != impl.PtBad || ok {
+		t.Errorf("%s: %.150q is read as %v, %d, %v", name, text, g, code, ok)
+	}
+	if g, ok := r.model(text); ok {
+		t.Errorf("%s: the model reads %.150q as %v", name, text, g)
+	}
+}
+
+func (r reading) checkTo(t *testing.T, name, text string, want groups) {
+	t.Helper()
+	if g, code, ok := r.read(text); !alikeGroups(g, want) || code != 0 || !ok {
+		t.Errorf("%s: %q is read as %v, %d, %v, not %v", name, text, g, code, ok, want)
+	}
+	if g, ok := r.model(text); !alikeGroups(g, want) || !ok {
+		t.Errorf("%s: the model reads %q as %v, %v", name, text, g, ok)
+	}
+}
+
+func (r reading) checkAny(t *testing.T, text string) bool {
+	t.Helper()
+	want, ok := r.model(text)
+	if !ok {
+		r.checkNone(t, "any", text)
+		return false
+	}
+	r.checkTo(t, "any", text, want)
+	return true
+}
+
 // checkUnread expects a text to be none of any good groups.
 func checkUnread(t *testing.T, name, text string) {
 	t.Helper()
-	if g, code, ok := impl.ReadUnified(text); len(g) != 0 || code != impl.PtBad || ok {
-		t.Errorf("%s: ReadUnified(%.80q) = %v, %d, %v", name, text, g, code, ok)
-	}
-	if g, ok := readBySplit(text); ok {
-		t.Errorf("%s: the model reads %.80q as %v", name, text, g)
-	}
+	allInOne.checkNone(t, name, text)
 }
 
 // checkReadTo expects a text to be read as these groups.
 func checkReadTo(t *testing.T, name, text string, want groups) {
 	t.Helper()
-	if g, code, ok := impl.ReadUnified(text); !alikeGroups(g, want) || code != 0 || !ok {
-		t.Errorf("%s: ReadUnified(%q) = %v, %d, %v, not %v", name, text, g, code, ok, want)
-	}
-	if g, ok := readBySplit(text); !alikeGroups(g, want) || !ok {
-		t.Errorf("%s: the model reads %q as %v, %v", name, text, g, ok)
-	}
+	allInOne.checkTo(t, name, text, want)
 }
 
 // checkAnyText expects of any text what the model tells of it, and says whether it is read.
 func checkAnyText(t *testing.T, text string) bool {
 	t.Helper()
-	want, ok := readBySplit(text)
-	if !ok {
-		checkUnread(t, "any", text)
-		return false
-	}
-	checkReadTo(t, "any", text, want)
-	return true
+	return allInOne.checkAny(t, text)
 }
 
 // checkShown expects good groups to be written as that text, and to be read from it.
@@ -359,19 +382,20 @@ func TestHeadsOfEachSize(t *testing.T) {
 	}
 }
 
-// sized are good groups whose text has so many bytes, the last one of them with one line that comes.
-func sized(t *testing.T, bytes int) groups {
+// sized are good groups of which so many bytes are written, the last one of them with one line that comes.
+func sized(t *testing.T, bytes int, write func(groups) string) groups {
 	t.Helper()
 	wide := func(at int, l ...string) impl.Group {
 		return impl.Group{At: at, Rows: rowsAs(impl.RwGone, l)}
 	}
 	lines := slices.Repeat([]string{full(impl.MaxLine)}, impl.MaxLines)
+	// Places with one digit less or more stand for lines that would be less than the shortest.
+	ends := groups{groupBy(500, 0, "+x"), groupBy(99, 0, "+x"), groupBy(500, 10, "+x")}
 	for n := range impl.MaxLines {
-		// A place with one digit less stands for a line that would be one byte less than the shortest.
-		for _, place := range []int{500, 99} {
+		for _, last := range ends {
 			third := wide(2*impl.MaxLines, append(lines[:n:n], "\n")...)
-			g := groups{wide(0, lines...), wide(impl.MaxLines, lines...), third, groupBy(place, 0, "+x")}
-			missing := bytes - len(textOfGroups(g))
+			g := groups{wide(0, lines...), wide(impl.MaxLines, lines...), third, last}
+			missing := bytes - len(write(g))
 			if missing >= 0 && missing < impl.MaxLine {
 				third.Rows[n].Line = full(1 + missing)
 				return g
@@ -384,14 +408,14 @@ func sized(t *testing.T, bytes int) groups {
 
 func TestGroupsTextOfMostBytes(t *testing.T) {
 	for bytes := impl.MaxPatch - 40; bytes <= impl.MaxPatch; bytes++ {
-		g := sized(t, bytes)
+		g := sized(t, bytes, textOfGroups)
 		if n := len(textOfGroups(g)); n != bytes {
 			t.Fatalf("%d bytes, not %d", n, bytes)
 		}
 		checkShown(t, "few enough bytes", g, textOfGroups(g))
 	}
 	for bytes := impl.MaxPatch + 1; bytes <= impl.MaxPatch+40; bytes++ {
-		g := sized(t, bytes)
+		g := sized(t, bytes, textOfGroups)
 		if !impl.GoodGroups(g) {
 			t.Fatalf("not good: %v", g)
 		}
@@ -429,14 +453,14 @@ func TestMostBytesWithOnes(t *testing.T) {
 		return strings.Replace(textOfGroups(g), " +1 @@", " +1,1 @@", 1)
 	}
 	for less := 2; less <= 9; less++ {
-		g := sized(t, impl.MaxPatch-less)
+		g := sized(t, impl.MaxPatch-less, textOfGroups)
 		if s := withOne(g); len(s) != impl.MaxPatch-less+2 {
 			t.Fatalf("%d bytes", len(s))
 		}
 		checkReadTo(t, "few enough bytes", withOne(g), g)
 	}
 	for less := range 2 {
-		checkUnread(t, "too many bytes", withOne(sized(t, impl.MaxPatch-less)))
+		checkUnread(t, "too many bytes", withOne(sized(t, impl.MaxPatch-less, textOfGroups)))
 	}
 }
 
