@@ -109,15 +109,16 @@ func readBySplit(text string) (groups, bool) {
 	return g, true
 }
 
-// reading is how groups are read from a text, and what a model reads.
-type reading struct {
-	read  func(text string) (groups, int, bool)
-	model func(text string) (groups, bool)
+// reading is how a text is read, what a model reads, and whether both are alike.
+type reading[T any] struct {
+	read  func(text string) ([]T, int, bool)
+	model func(text string) ([]T, bool)
+	alike func(a, b []T) bool
 }
 
-var allInOne = reading{impl.ReadUnified, readBySplit}
+var allInOne = reading[impl.Group]{impl.ReadUnified, readBySplit, alikeGroups}
 
-func (r reading) checkNone(t *testing.T, name, text string) {
+func (r reading[T]) checkNone(t *testing.T, name, text string) {
 	t.Helper()
 	if g, code, ok := r.read(text); len(g) != 0 || code != impl.PtBad || ok {
 		t.Errorf("%s: %.150q is read as %v, %d, %v", name, text, g, code, ok)
@@ -127,17 +128,17 @@ func (r reading) checkNone(t *testing.T, name, text string) {
 	}
 }
 
-func (r reading) checkTo(t *testing.T, name, text string, want groups) {
+func (r reading[T]) checkTo(t *testing.T, name, text string, want []T) {
 	t.Helper()
-	if g, code, ok := r.read(text); !alikeGroups(g, want) || code != 0 || !ok {
+	if g, code, ok := r.read(text); !r.alike(g, want) || code != 0 || !ok {
 		t.Errorf("%s: %q is read as %v, %d, %v, not %v", name, text, g, code, ok, want)
 	}
-	if g, ok := r.model(text); !alikeGroups(g, want) || !ok {
+	if g, ok := r.model(text); !r.alike(g, want) || !ok {
 		t.Errorf("%s: the model reads %q as %v, %v", name, text, g, ok)
 	}
 }
 
-func (r reading) checkAny(t *testing.T, text string) bool {
+func (r reading[T]) checkAny(t *testing.T, text string) bool {
 	t.Helper()
 	want, ok := r.model(text)
 	if !ok {

@@ -186,7 +186,7 @@ func readSides(text string) (groups, bool) {
 	return g, len(g) <= impl.MaxHunks
 }
 
-var beside = reading{impl.ReadContext, readSides}
+var beside = reading[impl.Group]{impl.ReadContext, readSides, alikeGroups}
 
 // checkNoSides expects a text to be none of any good groups.
 func checkNoSides(t *testing.T, name, text string) {
