@@ -484,6 +484,19 @@ func codeOf(l []string, p steps) (hunks, int) {
 	return h, 0
 }
 
+// stepsDone is what ApplySteps tells of good steps.
+func stepsDone(l []string, p steps) ([]string, int) {
+	h, code := codeOf(l, p)
+	if code != 0 {
+		return nil, code
+	}
+	made := plainOf(change(markedOf(l), h))
+	if !impl.GoodLines(made) {
+		return nil, impl.PtOther
+	}
+	return made, 0
+}
+
 // checkSteps expects what both functions tell of good lines and good steps.
 func checkSteps(t *testing.T, name string, l []string, p steps, want int) {
 	t.Helper()
@@ -492,16 +505,8 @@ func checkSteps(t *testing.T, name string, l []string, p steps, want int) {
 		t.Errorf("%s: the model tells %d, not %d", name, code, want)
 	}
 	checkCode(t, name, l, p, h, want)
-	if want != 0 {
-		checkApply(t, name, l, p, nil, want)
-		return
-	}
-	made := plainOf(change(markedOf(l), h))
-	if !impl.GoodLines(made) {
-		checkApply(t, name, l, p, nil, impl.PtOther)
-		return
-	}
-	checkApply(t, name, l, p, made, 0)
+	made, code := stepsDone(l, p)
+	checkApply(t, name, l, p, made, code)
 }
 
 func TestStepsHunksTellsCodes(t *testing.T) {
